@@ -1,0 +1,85 @@
+package words
+
+import (
+	"slices"
+	"strings"
+	"testing"
+)
+
+func TestIsKey(t *testing.T) {
+	long := strings.Repeat("a", 40)
+	for _, s := range []string{"a", "z", "u1", "a-b_c9", "a-", "a_", long} {
+		if !IsKey(s) {
+			t.Errorf("%q is a key", s)
+		}
+	}
+	for _, s := range []string{"", long + "a", "A", "1a", "-a", "_a", "aB", "a b", "a.", "a\n", "`", "{", "a`", "a{", "a/", "a:", "ä", "a\x80", "\x00"} {
+		if IsKey(s) {
+			t.Errorf("%q is no key", s)
+		}
+	}
+}
+
+func TestIsBits(t *testing.T) {
+	for _, s := range []string{"", "0", "1", "0110"} {
+		if !IsBits(s) {
+			t.Errorf("%q is a bit string", s)
+		}
+	}
+	for _, s := range []string{"2", "/", "0 1", "01\n", "0x1", "x", "1x", "x1", "\x80"} {
+		if IsBits(s) {
+			t.Errorf("%q is no bit string", s)
+		}
+	}
+}
+
+func TestNumber(t *testing.T) {
+	for s, want := range map[string]int{"0": 0, "7": 7, "10": 10, "-1": -1, "-10": -10, "999999999999999": 999_999_999_999_999, "-999999999999999": -999_999_999_999_999} {
+		if n, good := Number(s); !good || n != want {
+			t.Errorf("%q: %d %t", s, n, good)
+		}
+	}
+	for _, s := range []string{"", "-", "-0", "00", "01", "-01", "+1", "--1", " 1", "1 ", "1_0", "0x1", "1e3", "1.0", "a", "1000000000000000", "-1000000000000000", "000000000000000", "99999999999999999999", "१"} {
+		if n, good := Number(s); good || n != 0 {
+			t.Errorf("%q: %d %t", s, n, good)
+		}
+	}
+}
+
+func TestLines(t *testing.T) {
+	for _, c := range []struct {
+		text   string
+		number int
+		good   bool
+		read   []string
+	}{
+		{"", 0, true, nil},
+		{"\n", 0, true, []string{""}},
+		{"a\n\nb\r\n", 0, true, []string{"a", "", "b\r"}},
+		{"a", 0, false, nil},
+		{"a\nb\nc", 2, false, []string{"a", "b"}},
+		{"a\nbad\nb", 1, false, []string{"a", "bad"}},
+	} {
+		var read []string
+		number, good := Lines(c.text, func(line string) bool {
+			read = append(read, line)
+			return line != "bad"
+		})
+		if number != c.number || good != c.good || !slices.Equal(read, c.read) {
+			t.Errorf("%q: %d %t %q", c.text, number, good, read)
+		}
+	}
+}
+
+func TestSplit(t *testing.T) {
+	for line, want := range map[string][]string{"a": {"a"}, "a b": {"a", "b"}, "a\tb c": {"a\tb", "c"}} {
+		if parts, good := Split(line); !good || !slices.Equal(parts, want) {
+			t.Errorf("%q: %q %t", line, parts, good)
+		}
+	}
+	for _, line := range []string{"", " ", " a", "a ", "a  b"} {
+		if parts, good := Split(line); good || len(parts) != 0 {
+			t.Errorf("%q: %q %t", line, parts, good)
+		}
+	}
+}
