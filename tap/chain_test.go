@@ -7,6 +7,7 @@ import (
 	"testing"
 
 	"scanchain/api"
+	"scanchain/words"
 )
 
 func newChain(t *testing.T, d []api.Device) *Chain {
@@ -423,7 +424,7 @@ func randomDevices(r *rand.Rand) []api.Device {
 			d[i].Registers[j].Long = 1 + r.IntN(5)
 			targets = append(targets, d[i].Registers[j].Name)
 		}
-		isNew := newStrings(strings.Repeat("1", d[i].Long))
+		isNew := words.Fresh(strings.Repeat("1", d[i].Long))
 		for range r.IntN(8) {
 			if code := randomBits(r, d[i].Long); isNew(code) {
 				d[i].Instrs = append(d[i].Instrs, api.Instr{Code: code, Register: targets[r.IntN(len(targets))]})

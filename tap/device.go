@@ -29,7 +29,7 @@ func CheckDevices(d []api.Device) api.Errno {
 	if len(d) > api.MaxDevices {
 		return api.ErrLarge
 	}
-	isNew := newStrings()
+	isNew := words.Fresh[string]()
 	for _, device := range d {
 		if e := checkDevice(device, isNew); e != api.OK {
 			return e
@@ -58,7 +58,7 @@ func checkDevice(d api.Device, isNew func(string) bool) api.Errno {
 }
 
 func checkRegisters(registers []api.Register) api.Errno {
-	isNew := newStrings(bypass, idcode)
+	isNew := words.Fresh(bypass, idcode)
 	for _, r := range registers {
 		switch {
 		case !words.IsKey(r.Name):
@@ -74,7 +74,7 @@ func checkRegisters(registers []api.Register) api.Errno {
 
 func checkInstrs(d api.Device) api.Errno {
 	longs := registerLongs(d)
-	isNew := newStrings()
+	isNew := words.Fresh[string]()
 	for _, instr := range d.Instrs {
 		if e := checkCode(instr.Code, d.Long); e != api.OK {
 			return e
@@ -101,21 +101,6 @@ func checkCode(bits string, long int) api.Errno {
 		return api.ErrSyntax
 	}
 	return api.OK
-}
-
-// newStrings returns a function that reports whether a string was neither given to it before, nor is one of seen.
-func newStrings(seen ...string) func(string) bool {
-	known := map[string]bool{}
-	for _, s := range seen {
-		known[s] = true
-	}
-	return func(s string) bool {
-		if known[s] {
-			return false
-		}
-		known[s] = true
-		return true
-	}
 }
 
 // registerLongs returns the lengths of all data registers of a device, by name.

@@ -2,7 +2,6 @@ package tap
 
 import (
 	"strconv"
-	"strings"
 
 	"scanchain/api"
 	"scanchain/words"
@@ -13,25 +12,18 @@ func Text(d []api.Device) (string, api.Errno) {
 	if e := CheckDevices(d); e != api.OK {
 		return "", e
 	}
-	var text strings.Builder
-	line := func(parts ...string) {
-		text.WriteString(strings.Join(parts, " "))
-		text.WriteByte('\n')
-	}
-	for _, device := range d {
-		line("device", device.Name, strconv.Itoa(device.Long), strconv.Itoa(device.Id))
-		for _, r := range device.Registers {
-			line("register", r.Name, strconv.Itoa(r.Long))
+	// The limits of devices leave the text shorter than MaxText; the document names ErrLarge all the same.
+	return words.Write(func(line func(...string)) {
+		for _, device := range d {
+			line("device", device.Name, strconv.Itoa(device.Long), strconv.Itoa(device.Id))
+			for _, r := range device.Registers {
+				line("register", r.Name, strconv.Itoa(r.Long))
+			}
+			for _, instr := range device.Instrs {
+				line("instr", instr.Code, instr.Register)
+			}
 		}
-		for _, instr := range device.Instrs {
-			line("instr", instr.Code, instr.Register)
-		}
-	}
-	// The limits of devices leave the text shorter than this; the document names the error all the same.
-	if text.Len() > api.MaxText {
-		return "", api.ErrLarge
-	}
-	return text.String(), api.OK
+	})
 }
 
 // Read reads devices.

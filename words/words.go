@@ -1,4 +1,4 @@
-// Package words is how strings are read: keys, bit strings, numbers, lines and their words.
+// Package words is how strings are read and written: keys, bit strings, numbers, lines and their words.
 package words
 
 import (
@@ -69,4 +69,32 @@ func Split(line string) ([]string, bool) {
 		return nil, false
 	}
 	return parts, true
+}
+
+// Write calls write with a function that writes a line of words with single blanks between, and returns the text; ErrLarge if it has more than MaxText bytes.
+func Write(write func(line func(parts ...string))) (string, api.Errno) {
+	var text strings.Builder
+	write(func(parts ...string) {
+		text.WriteString(strings.Join(parts, " "))
+		text.WriteByte('\n')
+	})
+	if text.Len() > api.MaxText {
+		return "", api.ErrLarge
+	}
+	return text.String(), api.OK
+}
+
+// Fresh returns a function that reports whether a value was neither given to it before, nor is one of seen.
+func Fresh[T comparable](seen ...T) func(T) bool {
+	known := map[T]bool{}
+	for _, value := range seen {
+		known[value] = true
+	}
+	return func(value T) bool {
+		if known[value] {
+			return false
+		}
+		known[value] = true
+		return true
+	}
 }

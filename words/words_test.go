@@ -4,6 +4,8 @@ import (
 	"slices"
 	"strings"
 	"testing"
+
+	"scanchain/api"
 )
 
 func TestIsKey(t *testing.T) {
@@ -81,5 +83,41 @@ func TestSplit(t *testing.T) {
 		if parts, good := Split(line); good || len(parts) != 0 {
 			t.Errorf("%q: %q %t", line, parts, good)
 		}
+	}
+}
+
+func TestWrite(t *testing.T) {
+	text, e := Write(func(line func(...string)) {
+		line("a")
+		line("b", "c d", "e")
+		line()
+	})
+	if e != api.OK || text != "a\nb c d e\n\n" {
+		t.Errorf("%q %v", text, e)
+	}
+	if text, e := Write(func(func(...string)) {}); e != api.OK || text != "" {
+		t.Errorf("%q %v", text, e)
+	}
+	most := strings.Repeat("x", api.MaxText-1)
+	if text, e := Write(func(line func(...string)) { line(most) }); e != api.OK || text != most+"\n" {
+		t.Error(len(text), e)
+	}
+	if text, e := Write(func(line func(...string)) { line(most + "x") }); e != api.ErrLarge || text != "" {
+		t.Error(len(text), e)
+	}
+}
+
+func TestFresh(t *testing.T) {
+	isNew, other := Fresh("a", "b"), Fresh[string]()
+	for _, c := range []struct {
+		s    string
+		want bool
+	}{{"a", false}, {"c", true}, {"", true}, {"b", false}, {"c", false}, {"", false}} {
+		if isNew(c.s) != c.want {
+			t.Errorf("%q", c.s)
+		}
+	}
+	if !other("a") || other("a") {
+		t.Error("functions share what they know")
 	}
 }
