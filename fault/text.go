@@ -1,0 +1,84 @@
+package fault
+
+import (
+	"strconv"
+
+	"scanchain/api"
+	"scanchain/words"
+)
+
+// kindWords has the word for each kind.
+var kindWords = [...]string{
+	api.FaultStuck0: "stuck0",
+	api.FaultStuck1: "stuck1",
+	api.FaultAnd:    "and",
+	api.FaultOr:     "or",
+	api.FaultFirst:  "first",
+	api.FaultOpen:   "open",
+}
+
+// Text writes a line for each fault.
+func Text(f []api.Fault) (string, api.Errno) {
+	if e := checkFaults(api.MaxNets, f); e != api.OK {
+		return "", e
+	}
+	return words.Write(func(line func(...string)) {
+		for _, one := range f {
+			parts := []string{kindWords[one.Kind]}
+			for _, net := range one.Nets {
+				parts = append(parts, strconv.Itoa(net))
+			}
+			line(parts...)
+		}
+	})
+}
+
+// Read reads faults.
+func Read(nets int, text string) ([]api.Fault, int, api.Errno) {
+	if e := checkNets(nets); e != api.OK {
+		return nil, 0, e
+	}
+	if len(text) > api.MaxText {
+		return nil, 0, api.ErrLarge
+	}
+	var f []api.Fault
+	number, good := words.Lines(text, func(line string) bool {
+		one, is := readFault(line)
+		f = append(f, one)
+		return is
+	})
+	if !good {
+		return nil, number, api.ErrSyntax
+	}
+	if e := checkFaults(nets, f); e != api.OK {
+		return nil, 0, e
+	}
+	return f, 0, api.OK
+}
+
+// readFault returns the fault of a line, and true; false if it is not a line of a fault.
+func readFault(line string) (api.Fault, bool) {
+	parts, good := words.Split(line)
+	if !good || len(parts) < 2 {
+		return api.Fault{}, false
+	}
+	f := api.Fault{Kind: kindOf(parts[0])}
+	for _, part := range parts[1:] {
+		net, is := words.Number(part)
+		if !is {
+			return api.Fault{}, false
+		}
+		f.Nets = append(f.Nets, net)
+	}
+	return f, isKind(f.Kind)
+}
+
+// kindOf returns the kind with a word; 0 if there is none.
+func kindOf(word string) int {
+	for kind, known := range kindWords {
+		if known == word {
+			return kind
+		}
+	}
+	return 0
+}
