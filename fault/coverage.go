@@ -3,6 +3,7 @@ package fault
 import (
 	"scanchain/api"
 	"scanchain/ratio"
+	"scanchain/sets"
 )
 
 const mostKinds = 6
@@ -76,12 +77,12 @@ func Undetected(t []string, f []api.Fault) ([]int, api.Errno) {
 }
 
 // detections returns for each fault the vectors that detect it.
-func detections(t []string, f []api.Fault) ([]set, api.Errno) {
+func detections(t []string, f []api.Fault) ([]sets.Set, api.Errno) {
 	if e := check(t, f); e != api.OK {
 		return nil, e
 	}
 	w := wire(t)
-	var by []set
+	var by []sets.Set
 	for _, one := range f {
 		by = append(by, w.detects(one))
 	}
@@ -89,7 +90,7 @@ func detections(t []string, f []api.Fault) ([]set, api.Errno) {
 }
 
 // countDetected returns how many faults some vectors detect.
-func countDetected(by []set, some set) int {
+func countDetected(by []sets.Set, some sets.Set) int {
 	count := 0
 	for _, vectors := range by {
 		if vectors&some != 0 {
@@ -108,7 +109,7 @@ func Coverage(t []string, f []api.Fault) (api.Fraction, api.Errno) {
 	if len(f) == 0 {
 		return api.Fraction{}, api.ErrNone
 	}
-	return ratio.Of(countDetected(by, before(len(t[0]))), len(f)), api.OK
+	return ratio.Of(countDetected(by, sets.Before(len(t[0]))), len(f)), api.OK
 }
 
 // Groups returns the faults with one response.
@@ -135,7 +136,7 @@ func Groups(t []string, f []api.Fault) ([][]int, api.Errno) {
 // difference is how a response differs from the test: nets that are changed, rising, and in which vectors. A change without vectors is none.
 type difference [api.MaxShorted]struct {
 	net int
-	in  set
+	in  sets.Set
 }
 
 func (w wiring) difference(f api.Fault) difference {
@@ -168,7 +169,7 @@ func Curve(t []string, f []api.Fault) ([]int, api.Errno) {
 	}
 	var curve []int
 	for vector := range len(t[0]) {
-		curve = append(curve, countDetected(by, before(vector+1)))
+		curve = append(curve, countDetected(by, sets.Before(vector+1)))
 	}
 	return curve, api.OK
 }

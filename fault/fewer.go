@@ -1,9 +1,8 @@
 package fault
 
 import (
-	"slices"
-
 	"scanchain/api"
+	"scanchain/sets"
 )
 
 // Needed returns the vectors that alone detect a fault.
@@ -12,13 +11,13 @@ func Needed(t []string, f []api.Fault) ([]int, api.Errno) {
 	if e != api.OK {
 		return nil, e
 	}
-	var needed set
+	var needed sets.Set
 	for _, vectors := range by {
-		if vectors.count() == 1 {
+		if vectors.Count() == 1 {
 			needed |= vectors
 		}
 	}
-	return needed.list(), api.OK
+	return needed.List(), api.OK
 }
 
 // Reduced returns a test without vectors that are not needed.
@@ -28,28 +27,18 @@ func Reduced(t []string, f []api.Fault) ([]string, api.Errno) {
 		return nil, e
 	}
 	long := len(t[0])
-	serves := servingAll(by)
-	kept := before(long)
+	serves := sets.Meeting(by)
+	kept := sets.Before(long)
 	for vector := long - 1; vector >= 0; vector-- {
-		if without := kept &^ only(vector); serves(without) {
+		if without := kept &^ sets.Only(vector); serves(without) {
 			kept = without
 		}
 	}
 	var reduced []string
 	for _, bits := range t {
-		reduced = append(reduced, picked(bits, kept.list()))
+		reduced = append(reduced, picked(bits, kept.List()))
 	}
 	return reduced, api.OK
-}
-
-// servingAll returns a function that reports whether some vectors detect all faults that any vectors detect.
-func servingAll(by []set) func(some set) bool {
-	different := slices.Compact(slices.Sorted(slices.Values(by)))
-	return func(some set) bool {
-		return !slices.ContainsFunc(different, func(vectors set) bool {
-			return vectors != 0 && vectors&some == 0
-		})
-	}
 }
 
 // picked returns some bits of a string.
@@ -71,14 +60,5 @@ func Smallest(t []string, f []api.Fault) ([]int, api.Errno) {
 	if long > api.MaxExact {
 		return nil, api.ErrLarge
 	}
-	serves := servingAll(by)
-	smallest := before(long)
-	// Falling: of the sets with as many vectors, the one that comes first is the first one that is found.
-	for choice := smallest; choice != 0; {
-		choice = (choice - 1) & before(long)
-		if choice.count() < smallest.count() && serves(choice) {
-			smallest = choice
-		}
-	}
-	return smallest.list(), api.OK
+	return sets.Fewest(long, by), api.OK
 }

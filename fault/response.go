@@ -4,32 +4,33 @@ import (
 	"iter"
 
 	"scanchain/api"
+	"scanchain/sets"
 )
 
 // wiring is what the receivers of each net see in a test: the vectors in which it is 1.
 type wiring struct {
 	long int
-	on   []set
+	on   []sets.Set
 }
 
 // wire is for a valid test.
 func wire(t []string) wiring {
 	w := wiring{long: len(t[0])}
 	for _, bits := range t {
-		w.on = append(w.on, setOf(bits))
+		w.on = append(w.on, sets.Of(bits))
 	}
 	return w
 }
 
 // common returns what all nets of a fault have; with FaultFirst it is what the first one has.
-func (w wiring) common(f api.Fault) set {
+func (w wiring) common(f api.Fault) sets.Set {
 	value := w.on[f.Nets[0]]
 	for _, net := range f.Nets {
 		switch f.Kind {
 		case api.FaultStuck0:
 			value = 0
 		case api.FaultStuck1, api.FaultOpen:
-			value = before(w.long)
+			value = sets.Before(w.long)
 		case api.FaultAnd:
 			value &= w.on[net]
 		case api.FaultOr:
@@ -40,9 +41,9 @@ func (w wiring) common(f api.Fault) set {
 }
 
 // changed goes through the nets that a fault changes, in rising order, with the vectors in which it does.
-func (w wiring) changed(f api.Fault) iter.Seq2[int, set] {
+func (w wiring) changed(f api.Fault) iter.Seq2[int, sets.Set] {
 	value := w.common(f)
-	return func(yield func(int, set) bool) {
+	return func(yield func(int, sets.Set) bool) {
 		// The one net that may not be in its place is the first one of FaultFirst, which keeps what it has.
 		for _, net := range f.Nets {
 			if vectors := value ^ w.on[net]; vectors != 0 && !yield(net, vectors) {
@@ -53,8 +54,8 @@ func (w wiring) changed(f api.Fault) iter.Seq2[int, set] {
 }
 
 // detects returns the vectors that detect a fault.
-func (w wiring) detects(f api.Fault) set {
-	var all set
+func (w wiring) detects(f api.Fault) sets.Set {
+	var all sets.Set
 	for _, vectors := range w.changed(f) {
 		all |= vectors
 	}
@@ -79,7 +80,7 @@ func Combined(t []string, f []api.Fault) ([]string, api.Errno) {
 	}
 	var response []string
 	for _, ones := range w.on {
-		response = append(response, ones.text(w.long))
+		response = append(response, ones.Text(w.long))
 	}
 	return response, api.OK
 }
@@ -106,5 +107,5 @@ func First(t []string, f api.Fault) (int, bool, api.Errno) {
 	if vectors == 0 {
 		return 0, false, api.OK
 	}
-	return vectors.first(), true, api.OK
+	return vectors.First(), true, api.OK
 }

@@ -2,9 +2,9 @@ package pattern
 
 import (
 	"math"
-	"slices"
 
 	"scanchain/api"
+	"scanchain/sets"
 )
 
 const mostOrdered = 10
@@ -18,40 +18,24 @@ func Fewest(nets int, v []string) ([]int, api.Errno) {
 	if len(v) > api.MaxChosen {
 		return nil, api.ErrLarge
 	}
-	needs := needsOf(s, len(v))
-	fewest := ones(len(v))
-	// The first vector is the highest digit: of choices of the same length, the lexicographically smallest one is the greatest number.
-	for choice := fewest; choice >= 0; choice-- {
-		if countOnes(choice) < countOnes(fewest) && fulfils(choice, needs) {
-			fewest = choice
-		}
-	}
-	return indicesOf(fewest, len(v)), api.OK
+	return sets.Fewest(len(v), needsOf(s, len(v))), api.OK
 }
 
-// needsOf returns sets of vectors: one vector of each must be there to detect as much as with all. A sequence is the set of the vectors in which its net is 1.
-func needsOf(sequences []string, vectors int) []int {
-	var sets, needs []int
+// needsOf returns sets of vectors: one vector of each that is not empty must be there to detect as much as with all.
+func needsOf(sequences []string, vectors int) []sets.Set {
+	var highs, needs []sets.Set
 	for _, sequence := range sequences {
-		sets = append(sets, numberOf(sequence))
-	}
-	for _, high := range sets {
-		low := ones(vectors) - high
+		high := sets.Of(sequence)
+		low := sets.Before(vectors) &^ high
 		if high != 0 && low != 0 {
 			needs = append(needs, high, low)
 		}
+		highs = append(highs, high)
 	}
-	for a, b := range pairs(len(sets)) {
-		if sets[a] != sets[b] {
-			needs = append(needs, sets[a]^sets[b])
-		}
+	for a, b := range pairs(len(highs)) {
+		needs = append(needs, highs[a]^highs[b])
 	}
-	slices.Sort(needs)
-	return slices.Compact(needs)
-}
-
-func fulfils(choice int, needs []int) bool {
-	return !slices.ContainsFunc(needs, func(need int) bool { return need&choice == 0 })
+	return needs
 }
 
 // Order returns an order of vectors in which as few bits change as can be.

@@ -24,26 +24,6 @@ func countOnes(number int) int {
 	return bits.OnesCount(uint(number))
 }
 
-// numberOf returns the number with some binary digits.
-func numberOf(digits string) int {
-	number := 0
-	for _, digit := range digits {
-		number = 2*number + int(digit-'0')
-	}
-	return number
-}
-
-// indicesOf returns where the ones are among the digits of a number.
-func indicesOf(number, long int) []int {
-	var indices []int
-	for i, digit := range digits(number, long) {
-		if digit == '1' {
-			indices = append(indices, i)
-		}
-	}
-	return indices
-}
-
 func inverted(bit rune) rune {
 	return '0' + '1' - bit
 }
