@@ -38,22 +38,7 @@ func Read(nets int, text string) ([]api.Fault, int, api.Errno) {
 	if e := checkNets(nets); e != api.OK {
 		return nil, 0, e
 	}
-	if len(text) > api.MaxText {
-		return nil, 0, api.ErrLarge
-	}
-	var f []api.Fault
-	number, good := words.Lines(text, func(line string) bool {
-		one, is := readFault(line)
-		f = append(f, one)
-		return is
-	})
-	if !good {
-		return nil, number, api.ErrSyntax
-	}
-	if e := checkFaults(nets, f); e != api.OK {
-		return nil, 0, e
-	}
-	return f, 0, api.OK
+	return words.ReadList(text, readFault, func(f []api.Fault) api.Errno { return checkFaults(nets, f) })
 }
 
 // readFault returns the fault of a line, and true; false if it is not a line of a fault.

@@ -38,19 +38,6 @@ func checkLines(v []string) api.Errno {
 
 // Read reads vectors.
 func Read(text string) ([]string, int, api.Errno) {
-	if len(text) > api.MaxText {
-		return nil, 0, api.ErrLarge
-	}
-	var v []string
-	number, good := words.Lines(text, func(line string) bool {
-		v = append(v, line)
-		return line != "" && words.IsBits(line)
-	})
-	if !good {
-		return nil, number, api.ErrSyntax
-	}
-	if e := checkLines(v); e != api.OK {
-		return nil, 0, e
-	}
-	return v, 0, api.OK
+	read := func(line string) (string, bool) { return line, line != "" && words.IsBits(line) }
+	return words.ReadList(text, read, checkLines)
 }

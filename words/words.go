@@ -62,6 +62,26 @@ func Lines(text string, read func(line string) bool) (int, bool) {
 	return 0, true
 }
 
+// ReadList reads an element from each line of a text, and checks all of them. With ErrSyntax, the int is the number of the first line that read does not accept or that is not ended by a line feed.
+func ReadList[T any](text string, read func(line string) (T, bool), check func(list []T) api.Errno) ([]T, int, api.Errno) {
+	if len(text) > api.MaxText {
+		return nil, 0, api.ErrLarge
+	}
+	var list []T
+	number, good := Lines(text, func(line string) bool {
+		element, is := read(line)
+		list = append(list, element)
+		return is
+	})
+	if !good {
+		return nil, number, api.ErrSyntax
+	}
+	if e := check(list); e != api.OK {
+		return nil, 0, e
+	}
+	return list, 0, api.OK
+}
+
 // Split returns the words of a line, and true; false if one of them is empty.
 func Split(line string) ([]string, bool) {
 	parts := strings.Split(line, " ")

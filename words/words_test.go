@@ -73,6 +73,35 @@ func TestLines(t *testing.T) {
 	}
 }
 
+func TestReadList(t *testing.T) {
+	most := strings.Repeat("1\n", api.MaxText/2)
+	for _, c := range []struct {
+		name, text string
+		number     int
+		want       api.Errno
+		list       []int
+	}{
+		{"no lines", "", 0, api.OK, nil},
+		{"lines", "1\n-20\n3\n", 0, api.OK, []int{1, -20, 3}},
+		{"a line that is not read", "1\nx\n3\n", 1, api.ErrSyntax, nil},
+		{"a line that is not ended", "1\n2\n3", 2, api.ErrSyntax, nil},
+		{"what check does not accept", "1\n7\n3\n", 0, api.ErrRule, nil},
+		{"syntax before check", "7\n\n", 1, api.ErrSyntax, nil},
+		{"longest text", most, 0, api.OK, slices.Repeat([]int{1}, api.MaxText/2)},
+		{"longer text", most + "x", 0, api.ErrLarge, nil},
+	} {
+		list, number, e := ReadList(c.text, Number, func(list []int) api.Errno {
+			if slices.Contains(list, 7) {
+				return api.ErrRule
+			}
+			return api.OK
+		})
+		if e != c.want || number != c.number || !slices.Equal(list, c.list) {
+			t.Errorf("%s: %d %d %v", c.name, len(list), number, e)
+		}
+	}
+}
+
 func TestSplit(t *testing.T) {
 	for line, want := range map[string][]string{"a": {"a"}, "a b": {"a", "b"}, "a\tb c": {"a\tb", "c"}} {
 		if parts, good := Split(line); !good || !slices.Equal(parts, want) {
