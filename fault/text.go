@@ -47,15 +47,9 @@ func readFault(line string) (api.Fault, bool) {
 	if !good || len(parts) < 2 {
 		return api.Fault{}, false
 	}
-	f := api.Fault{Kind: kindOf(parts[0])}
-	for _, part := range parts[1:] {
-		net, is := words.Number(part)
-		if !is {
-			return api.Fault{}, false
-		}
-		f.Nets = append(f.Nets, net)
-	}
-	return f, isKind(f.Kind)
+	kind := kindOf(parts[0])
+	nets, are := words.Numbers(parts[1:])
+	return api.Fault{Kind: kind, Nets: nets}, are && isKind(kind)
 }
 
 // kindOf returns the kind with a word; 0 if there is none.

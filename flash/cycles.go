@@ -5,6 +5,7 @@ import (
 	"slices"
 
 	"scanchain/api"
+	"scanchain/numbers"
 )
 
 const (
@@ -51,7 +52,7 @@ func Shifts(f api.Flash, o []api.Op, long int) (int, api.Errno) {
 	if e := CheckOps(f, o); e != api.OK {
 		return 0, e
 	}
-	if !areWithin(1, mostLong, long) {
+	if !numbers.AreWithin(1, mostLong, long) {
 		return 0, api.ErrArg
 	}
 	c, e := Cycles(f, o)
@@ -79,7 +80,7 @@ func checkCycles(c []api.Cycle) api.Errno {
 		return api.ErrLarge
 	}
 	for _, cycle := range c {
-		if !areWithin(0, mostAddress, cycle.Address) || !areWithin(0, api.MaxWord, cycle.Data) {
+		if !numbers.AreWithin(0, mostAddress, cycle.Address) || !numbers.AreWithin(0, api.MaxWord, cycle.Data) {
 			return api.ErrArg
 		}
 	}

@@ -5,6 +5,7 @@ import (
 	"slices"
 
 	"scanchain/api"
+	"scanchain/numbers"
 )
 
 const (
@@ -22,7 +23,7 @@ func CheckBlocks(b []api.Block) api.Errno {
 		switch {
 		case len(block.Bytes) == 0:
 			return api.ErrNone
-		case !areWithin(0, api.MaxImage-1, block.Address):
+		case !numbers.AreWithin(0, api.MaxImage-1, block.Address):
 			return api.ErrArg
 		case endOf(block) > api.MaxImage:
 			return api.ErrLarge

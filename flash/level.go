@@ -5,6 +5,7 @@ import (
 	"slices"
 
 	"scanchain/api"
+	"scanchain/numbers"
 )
 
 const (
@@ -20,11 +21,11 @@ func Level(f api.Flash, worn []int, sizes []int) ([]int, bool, api.Errno) {
 	switch {
 	case len(worn) != len(f.Sectors):
 		return nil, false, api.ErrForm
-	case !areWithin(0, mostWorn, worn...):
+	case !numbers.AreWithin(0, mostWorn, worn...):
 		return nil, false, api.ErrArg
 	case len(sizes) > mostFiles:
 		return nil, false, api.ErrLarge
-	case !areWithin(1, api.MaxWords, sizes...):
+	case !numbers.AreWithin(1, api.MaxWords, sizes...):
 		return nil, false, api.ErrArg
 	}
 	sectors, is := leastWorn(f.Sectors, worn, sizes)

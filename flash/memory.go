@@ -5,6 +5,7 @@ import (
 	"slices"
 
 	"scanchain/api"
+	"scanchain/numbers"
 )
 
 // CheckFlash says what is wrong with a memory.
@@ -14,7 +15,7 @@ func CheckFlash(f api.Flash) api.Errno {
 		return api.ErrNone
 	case len(f.Sectors) > api.MaxSectors:
 		return api.ErrLarge
-	case !areWithin(1, api.MaxWords, f.Sectors...):
+	case !numbers.AreWithin(1, api.MaxWords, f.Sectors...):
 		return api.ErrArg
 	case longOf(f) > api.MaxWords:
 		return api.ErrLarge
@@ -30,7 +31,7 @@ func CheckImage(f api.Flash, words []int) api.Errno {
 	switch {
 	case len(words) != longOf(f):
 		return api.ErrForm
-	case !areWithin(0, api.MaxWord, words...):
+	case !numbers.AreWithin(0, api.MaxWord, words...):
 		return api.ErrArg
 	}
 	return api.OK
@@ -47,13 +48,6 @@ func SectorOf(f api.Flash, address int) (int, int, api.Errno) {
 		return 0, 0, api.ErrArg
 	}
 	return sector, spans[sector].From, api.OK
-}
-
-// areWithin reports whether all numbers are from low to high.
-func areWithin(low, high int, numbers ...int) bool {
-	return !slices.ContainsFunc(numbers, func(n int) bool {
-		return n < low || n > high
-	})
 }
 
 // longOf returns how many words a memory has.

@@ -4,6 +4,7 @@ import (
 	"cmp"
 
 	"scanchain/api"
+	"scanchain/numbers"
 )
 
 // CheckOps says what is wrong with operations.
@@ -27,13 +28,13 @@ func checkOp(sectors, addresses int, op api.Op) api.Errno {
 	switch op.Kind {
 	case api.OpErase:
 		switch {
-		case !areWithin(0, sectors-1, op.Address):
+		case !numbers.AreWithin(0, sectors-1, op.Address):
 			return api.ErrArg
 		case op.Value != 0:
 			return api.ErrForm
 		}
 	case api.OpProgram:
-		if !areWithin(0, addresses-1, op.Address) || !areWithin(0, api.MaxWord, op.Value) {
+		if !numbers.AreWithin(0, addresses-1, op.Address) || !numbers.AreWithin(0, api.MaxWord, op.Value) {
 			return api.ErrArg
 		}
 	default:

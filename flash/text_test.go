@@ -44,7 +44,7 @@ func wantNotParsed(t *testing.T, name, text string, want api.Errno, wantNumber i
 	}
 }
 
-func numbers(from, long int) []byte {
+func rising(from, long int) []byte {
 	var b []byte
 	for i := range long {
 		b = append(b, byte(from+i))
@@ -57,15 +57,15 @@ func TestWrite(t *testing.T) {
 	wantWritten(t, "the document's example", ":0100020001FC\n"+lastRecord, api.Block{Address: 2, Bytes: []byte{1}})
 	wantWritten(t, "capital letters", ":031ABC00ABCDEFC0\n"+lastRecord, api.Block{Address: 0x1ABC, Bytes: []byte{0xAB, 0xCD, 0xEF}})
 	wantWritten(t, "a checksum of 0", ":0100FF000000\n"+lastRecord, api.Block{Address: 255, Bytes: []byte{0}})
-	wantWritten(t, "16 bytes", written(0, 7, numbers(0, 16)...)+lastRecord, api.Block{Address: 7, Bytes: numbers(0, 16)})
-	wantWritten(t, "17 bytes", written(0, 7, numbers(0, 16)...)+written(0, 23, 16)+lastRecord, api.Block{Address: 7, Bytes: numbers(0, 17)})
-	wantWritten(t, "several blocks", written(0, 0, 1, 2)+written(0, 2, numbers(9, 16)...)+written(0, 18, numbers(25, 16)...)+written(0, 8_191, 255)+lastRecord,
-		api.Block{Address: 0, Bytes: []byte{1, 2}}, api.Block{Address: 2, Bytes: numbers(9, 32)}, api.Block{Address: 8_191, Bytes: []byte{255}})
+	wantWritten(t, "16 bytes", written(0, 7, rising(0, 16)...)+lastRecord, api.Block{Address: 7, Bytes: rising(0, 16)})
+	wantWritten(t, "17 bytes", written(0, 7, rising(0, 16)...)+written(0, 23, 16)+lastRecord, api.Block{Address: 7, Bytes: rising(0, 17)})
+	wantWritten(t, "several blocks", written(0, 0, 1, 2)+written(0, 2, rising(9, 16)...)+written(0, 18, rising(25, 16)...)+written(0, 8_191, 255)+lastRecord,
+		api.Block{Address: 0, Bytes: []byte{1, 2}}, api.Block{Address: 2, Bytes: rising(9, 32)}, api.Block{Address: 8_191, Bytes: []byte{255}})
 	all := ""
 	for address := 0; address < 8_192; address += 16 {
-		all += written(0, address, numbers(address, 16)...)
+		all += written(0, address, rising(address, 16)...)
 	}
-	wantWritten(t, "a whole image", all+lastRecord, api.Block{Bytes: numbers(0, 8_192)})
+	wantWritten(t, "a whole image", all+lastRecord, api.Block{Bytes: rising(0, 8_192)})
 }
 
 func TestParse(t *testing.T) {
@@ -74,14 +74,14 @@ func TestParse(t *testing.T) {
 	wantParsed(t, "records without a gap", written(0, 4, 1, 2)+written(0, 6, 3)+written(0, 7, 4)+lastRecord, api.Block{Address: 4, Bytes: []byte{1, 2, 3, 4}})
 	wantParsed(t, "records with a gap", written(0, 4, 1, 2)+written(0, 7, 3)+lastRecord, api.Block{Address: 4, Bytes: []byte{1, 2}}, api.Block{Address: 7, Bytes: []byte{3}})
 	wantParsed(t, "records in another order", written(0, 9, 9)+written(0, 0, 5)+written(0, 2, 7)+written(0, 1, 6)+lastRecord, api.Block{Bytes: []byte{5, 6, 7}}, api.Block{Address: 9, Bytes: []byte{9}})
-	wantParsed(t, "255 bytes", written(0, 1, numbers(0, 255)...)+lastRecord, api.Block{Address: 1, Bytes: numbers(0, 255)})
+	wantParsed(t, "255 bytes", written(0, 1, rising(0, 255)...)+lastRecord, api.Block{Address: 1, Bytes: rising(0, 255)})
 	wantParsed(t, "the last byte", written(0, 8_191, 0)+lastRecord, api.Block{Address: 8_191, Bytes: []byte{0}})
 	all := []string{lastRecord}
 	for address := 0; address < 8_192; address += 8 {
-		all = append(all, written(0, address, numbers(address, 8)...))
+		all = append(all, written(0, address, rising(address, 8)...))
 	}
 	slices.Reverse(all)
-	wantParsed(t, "a whole image", strings.Join(all, ""), api.Block{Bytes: numbers(0, 8_192)})
+	wantParsed(t, "a whole image", strings.Join(all, ""), api.Block{Bytes: rising(0, 8_192)})
 }
 
 // merged is blocks of which none follows another without a gap.
@@ -145,7 +145,7 @@ func TestParseSyntax(t *testing.T) {
 	wantNotParsed(t, "a record that is not ended", ":0100020001FC", api.ErrSyntax, 0)
 	wantNotParsed(t, "a last record that is not ended", good+":00000001FF", api.ErrSyntax, 1)
 	wantNotParsed(t, "a line that is not ended, with a wrong checksum", good+":0100020001FD", api.ErrSyntax, 1)
-	wantNotParsed(t, "more bytes than a record has", ":00"+strings.TrimPrefix(written(0, 0, numbers(0, 255)...), ":FF")[:4+2+512]+"00\n", api.ErrSyntax, 0)
+	wantNotParsed(t, "more bytes than a record has", ":00"+strings.TrimPrefix(written(0, 0, rising(0, 255)...), ":FF")[:4+2+512]+"00\n", api.ErrSyntax, 0)
 }
 
 func TestParseSum(t *testing.T) {

@@ -50,6 +50,19 @@ func Number(word string) (int, bool) {
 	return n, true
 }
 
+// Numbers returns the numbers that words are, and true; false if one of them is none.
+func Numbers(parts []string) ([]int, bool) {
+	numbers := make([]int, len(parts))
+	for i, part := range parts {
+		n, is := Number(part)
+		if !is {
+			return nil, false
+		}
+		numbers[i] = n
+	}
+	return numbers, true
+}
+
 // Lines calls read for each line of a text. It stops at the first line that read does not accept or that is not ended by a line feed, and returns its number and false.
 func Lines(text string, read func(line string) bool) (int, bool) {
 	for number := 0; text != ""; number++ {

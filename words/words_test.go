@@ -48,6 +48,26 @@ func TestNumber(t *testing.T) {
 	}
 }
 
+func TestNumbers(t *testing.T) {
+	for _, c := range []struct {
+		parts []string
+		want  []int
+		good  bool
+	}{
+		{nil, nil, true},
+		{[]string{"7"}, []int{7}, true},
+		{[]string{"7", "-20", "0"}, []int{7, -20, 0}, true},
+		{[]string{""}, nil, false},
+		{[]string{"7", "07"}, nil, false},
+		{[]string{"x", "7"}, nil, false},
+		{[]string{"7", "1000000000000000", "7"}, nil, false},
+	} {
+		if got, good := Numbers(c.parts); good != c.good || !slices.Equal(got, c.want) {
+			t.Error(c.parts, got, good)
+		}
+	}
+}
+
 func TestLines(t *testing.T) {
 	for _, c := range []struct {
 		text   string
