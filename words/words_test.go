@@ -10,7 +10,7 @@ import (
 
 func TestIsKey(t *testing.T) {
 	long := strings.Repeat("a", 40)
-	for _, s := range []string{"a", "z", "u1", "a-b_c9", "a-", "a_", long} {
+	for _, s := range []string{"a", "z", "u1", "a0", "a-b_c9", "a-", "a_", long} {
 		if !IsKey(s) {
 			t.Errorf("%q is a key", s)
 		}
